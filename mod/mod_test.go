@@ -391,3 +391,19 @@ func TestAskedAgainTheSameIsAnswered(t *testing.T) {
 		t.Fatal("a modulus was changed:", seven.Modulus(), curve.Modulus())
 	}
 }
+
+// What a Mod answers that New didn't make is not said, but each call ends.
+func TestEveryCallEnds(t *testing.T) {
+	top := api.Num{top, top, top, top}
+	for _, x := range []*mod.Mod{nil, {}, made(t, small(3)), made(t, top)} {
+		for _, a := range []api.Num{{}, {1}, top} {
+			x.Add(a, top)
+			x.Sub(a, top)
+			x.Mul(a, top)
+			x.Pow(a, top)
+			x.Inv(a)
+		}
+		x.Modulus()
+		x.Reduce(bytes.Repeat([]byte{255}, 1<<20+1))
+	}
+}
